@@ -1,13 +1,11 @@
 package packet
 
 import (
-	"math"
-
 	"barrow/api"
+	"barrow/scan"
 )
 
-// greatest is the greatest number that has a form in bytes.
-const greatest = math.MaxInt
+const greatest = scan.Greatest
 
 // isOneOf: is it one of the kinds, of which the last one is named?
 func isOneOf(kind, last int) bool { return kind >= 1 && kind <= last }
